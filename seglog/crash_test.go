@@ -230,7 +230,7 @@ func some(r *rand.Rand, s state) change {
 
 // P506: long rows of changes, crashes and openings, also without a crash between.
 func TestCrashRandom(t *testing.T) {
-	for seed := range int64(250) {
+	for seed := range int64(150) {
 		r := rand.New(rand.NewSource(seed))
 		d := newDisk(t, 30000)
 		l, may := open(t, d), newTrail(state{})
