@@ -380,6 +380,9 @@ func TestCompactErrors(t *testing.T) {
 		{snaps.Snapshot{Index: 9, Term: 4, Servers: two}, api.ErrGap},
 		{snaps.Snapshot{Index: 10, Term: 4, Servers: two}, api.ErrGap},
 		{snaps.Snapshot{Index: 1 << 39, Term: 4, Servers: two}, api.ErrGap},
+		{snaps.Snapshot{Index: 1<<39 + 1, Term: 4, Servers: two}, api.ErrGap},
+		{snaps.Snapshot{Index: 1<<40 - 1, Term: 4, Servers: two}, api.ErrGap},
+		{snaps.Snapshot{Index: 1<<40 - 1, Term: 4, Servers: []int{1, 0}}, api.ErrArg},
 		{snaps.Snapshot{Index: 6, Term: 1, Servers: three}, api.ErrGap},
 		{snaps.Snapshot{Index: 6, Term: 3, Servers: three}, api.ErrGap},
 		{snaps.Snapshot{Index: 6, Term: 2, Servers: two}, api.ErrGap},
@@ -402,11 +405,11 @@ func TestCompactErrors(t *testing.T) {
 	}
 }
 
-// P1510: a log's base is at most 2^39: a Snapshot above that is none that may be its base, and the log goes on.
+// P1510: a log's base is at most 2^39: a Snapshot above that may be, but can't be its base, though it is committed, and the log goes on.
 func TestCompactAtTheEnd(t *testing.T) {
 	r := leading(t, usual, above(start(0, 2, nil), snaps.Snapshot{Index: 1 << 39, Term: 2, Servers: []int{0}}))
 	wantLooks(t, r, raft.Leads, 3, 0, 1<<39+1)
-	if e := r.Compact(snaps.Snapshot{Index: 1<<39 + 1, Term: 3, Servers: []int{0}}); e != api.ErrArg {
+	if e := r.Compact(snaps.Snapshot{Index: 1<<39 + 1, Term: 3, Servers: []int{0}}); e != api.ErrGap {
 		t.Error(e)
 	}
 	if i, e := r.Propose(nil); i != 1<<39+2 || e != api.OK || r.Commit() != i {

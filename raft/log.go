@@ -60,6 +60,12 @@ func (l *log) changing() bool {
 	return slices.ContainsFunc(l.view.L[l.commit-l.view.Base:], func(x api.Entry) bool { return x.Kind == api.Servers })
 }
 
+// mayBegin: may the log begin behind a Snapshot? What is committed may end above the last base that a View may have.
+func (l *log) mayBegin(s snaps.Snapshot) bool {
+	return s.Index > l.view.Base && s.Index <= min(l.commit, maxBase) &&
+		s.Term == l.termAt(s.Index) && slices.Equal(s.Servers, l.serversAt(s.Index))
+}
+
 // rebase: the log begins behind a Snapshot, which it keeps. Entries behind it stay, if it goes on from what is here.
 func (l *log) rebase(s snaps.Snapshot) {
 	var behind []api.Entry

@@ -42,13 +42,13 @@ func (s Start) baseMayBe() bool {
 	if s.View.Base == 0 {
 		return (len(s.Servers) == 0 || conf.Right(s.Servers)) && isZero(s.Snap)
 	}
-	return mayBeBase(s.Snap) && s.Snap.Index == s.View.Base && s.Snap.Term == s.View.Term && slices.Equal(s.Snap.Servers, s.Servers)
+	return snapMayBe(s.Snap) && s.Snap.Index == s.View.Base && s.Snap.Term == s.View.Term && slices.Equal(s.Snap.Servers, s.Servers)
 }
 
-// mayBeBase: a Snapshot that may be, and whose Index a View may have as its base.
-func mayBeBase(s snaps.Snapshot) bool {
+// snapMayBe: may a Snapshot be? That is snaps' to tell.
+func snapMayBe(s snaps.Snapshot) bool {
 	_, e := snaps.Put(s)
-	return e == api.OK && s.Index <= maxBase
+	return e == api.OK
 }
 
 func isZero(s snaps.Snapshot) bool {
