@@ -56,12 +56,6 @@ func load(d *vdisk.Disk) (s state, e api.Errno) {
 	return s, e
 }
 
-// fits: a log that begins above the snapshot lacks entries that were there.
-func (s state) fits() bool {
-	base, _ := s.log.Base()
-	return base == s.snap.Index
-}
-
 // start: the state as a raft's; where there is no snapshot, its servers are those that are handed in.
 func (s state) start(id int, servers []int) raft.Start {
 	if s.snap.Index > 0 {

@@ -223,6 +223,88 @@ func TestOpenRebases(t *testing.T) {
 	}
 }
 
+// above: a disk whose log begins at a base above its snapshot's (that of l; none: there is no snapshot), and has no entries.
+func above(t *testing.T, v stable.Vote, base, term int, l ...api.Entry) *vdisk.Disk {
+	t.Helper()
+	d := newDisk(t)
+	lay(t, d, v, base, term)
+	if len(l) > 0 {
+		wantErr(t, "Save", snaps.Save(d, snapshot(t, []int{0, 1}, l...)), api.OK)
+	}
+	return d
+}
+
+// P1602: where the log has no entries its base does not matter, though it is above the snapshot's: the snapshot is the base, or 0. Nothing is written.
+func TestOpenLogAbove(t *testing.T) {
+	l := []api.Entry{none(1, 1), opens(1, 2), puts(2, 3, 2, 1, "x")}
+	for _, term := range []int{1, 2, 3, 9, api.MaxTerm - 1} {
+		for _, base := range []int{1, 4, 5, api.MaxLog + 5, 1 << 39, 1<<40 - 1} {
+			d := above(t, stable.Vote{For: -1}, base, term)
+			before := files(d)
+			n := opened(t, usual, 2, []int{2}, d)
+			wantLooks(t, n, raft.Follows, 0, -1, 0, 0, 0)
+			if n.Vote() != (stable.Vote{For: -1}) || !slices.Equal(n.Servers(), []int{2}) || files(d) != before {
+				t.Errorf("base %d: %s; %s", base, looks(n), files(d))
+			}
+			wantRecords(t, n)
+			if base < 4 {
+				continue
+			}
+			d = above(t, stable.Vote{Term: 2, For: 1}, base, term, l...)
+			before = files(d)
+			n = opened(t, usual, 1, []int{1, 7}, d)
+			wantLooks(t, n, raft.Follows, 2, -1, 3, 3, 3)
+			if n.Vote() != (stable.Vote{Term: 2, For: 1}) || !slices.Equal(n.Servers(), []int{0, 1}) || n.View().Term != 2 || files(d) != before {
+				t.Errorf("base %d, above a snapshot: %s; %s", base, looks(n), files(d))
+			}
+			wantRecords(t, n, "x")
+		}
+	}
+}
+
+// P1602, P1604, P1605: such a node answers as any other, till there is an entry, which such a log can't take: it is down then, and tells nothing of it.
+func TestLogAboveTakesNoEntry(t *testing.T) {
+	v := stable.Vote{Term: 1, For: -1}
+	for _, l := range [][]api.Entry{{none(1, 1)}, {none(1, 1), none(1, 2), none(1, 3), none(1, 4), none(1, 5), none(1, 6)}} {
+		d := above(t, v, 5, 1)
+		n := opened(t, usual, 0, []int{0, 1}, d)
+		step(t, n, appends(1, 0, 1, 0, 0, 0, 1), appends(1, 0, 1, 5, 1, 5, 1))
+		wantLetters(t, n, got(0, 1, 1, 0, 1, true), got(0, 1, 1, 1, 1, false))
+		before := files(d)
+		step(t, n, appends(1, 0, 1, 0, 0, 1, 1, l...))
+		if !n.Down() || files(d) != before {
+			t.Errorf("%s; %s", looks(n), files(d))
+		}
+		wantLetters(t, n)
+		wantLooks(t, opened(t, usual, 0, []int{0, 1}, d), raft.Follows, 1, -1, 0, 0, 0)
+	}
+	// One that is alone stands, but can't lead.
+	d := above(t, v, 5, 1)
+	n := opened(t, usual, 2, []int{2}, d)
+	tick(t, n, 5)
+	if !n.Down() {
+		t.Error(looks(n))
+	}
+	wantDisk(t, d, stable.Vote{Term: 2, For: 2}, 0, 5)
+}
+
+// P1604: a leader's snapshot above that base mends it.
+func TestLogAboveInstalls(t *testing.T) {
+	s, _ := installed(t)
+	d := above(t, stable.Vote{Term: 3, For: -1}, 3, 9)
+	n := opened(t, usual, 0, []int{0, 1}, d)
+	step(t, n, whole(1, 0, 3, s, 7), appends(1, 0, 3, 4, 3, 5, 8, puts(3, 5, 2, 3, "z")))
+	wantLetters(t, n, have(0, 1, 3, 4, 7, true), got(0, 1, 3, 5, 8, true))
+	wantDisk(t, d, stable.Vote{Term: 3, For: -1}, 4, 4, puts(3, 5, 2, 3, "z"))
+	for range 2 {
+		wantLooks(t, n, raft.Follows, 3, 1, 5, 4, 5)
+		wantRecords(t, n, "x", "y", "z")
+		d.Crash(nil)
+		n = opened(t, usual, 0, []int{0, 1}, d)
+		step(t, n, appends(1, 0, 3, 5, 3, 5, 9))
+	}
+}
+
 // P1602: what is left of a crash is put away; of several snapshots the last one is there.
 func TestOpenCleans(t *testing.T) {
 	d := newDisk(t)
@@ -300,9 +382,7 @@ func TestOpenForm(t *testing.T) {
 		"no machine":                   func(d *vdisk.Disk) { stable.Save(d, stable.Vote{Term: 9, For: -1}); snaps.Save(d, junk) },
 		"a base that is too high":      func(d *vdisk.Disk) { stable.Save(d, stable.Vote{Term: 9, For: -1}); snaps.Save(d, last) },
 		"a gap, without a snapshot":    func(d *vdisk.Disk) { lay(t, d, stable.Vote{Term: 9, For: -1}, 2, 1, l[2:]...) },
-		"a base, without a snapshot":   func(d *vdisk.Disk) { lay(t, d, stable.Vote{Term: 9, For: -1}, 2, 1) },
 		"a gap, above the snapshot":    func(d *vdisk.Disk) { lay(t, d, stable.Vote{Term: 9, For: -1}, 4, 2, none(3, 5)); snaps.Save(d, s) },
-		"a base, above the snapshot":   func(d *vdisk.Disk) { lay(t, d, stable.Vote{Term: 9, For: -1}, 4, 2); snaps.Save(d, s) },
 		"a term that falls behind it":  func(d *vdisk.Disk) { lay(t, d, stable.Vote{Term: 9, For: -1}, 3, 1, none(1, 4)); snaps.Save(d, s) },
 		"both a bad vote and snapshot": func(d *vdisk.Disk) { d.Create("vote"); snaps.Save(d, junk) },
 	} {
